@@ -1,0 +1,1 @@
+"""Whole numbers of 128 bits, signed and plain."""

@@ -1,0 +1,107 @@
+"""Calls over whole numbers of 128 bits, each told as a number from 0 to 2^128 - 1."""
+
+WIDTH = 128
+WIDTH_BYTES = 16
+SPAN = 0x100000000000000000000000000000000
+HALF = 0x80000000000000000000000000000000
+
+
+def as_signed(a):
+    return a - SPAN if a >= HALF else a
+
+
+def fits_signed(number):
+    return -HALF <= number < HALF
+
+
+def fits_plain(number):
+    return 0 <= number < SPAN
+
+
+def lowest_bytes(number, size):
+    # A shift right keeps the sign, so a number below 0 gives its two's complement here.
+    return [(number >> (8 * k)) & 255 for k in range(size)]
+
+
+def wide_answer(first, number):
+    return [first, WIDTH_BYTES] + lowest_bytes(number, WIDTH_BYTES)
+
+
+def quotient_toward_zero(x, y):
+    # Python's // goes down, which is toward 0 only where nothing is below 0.
+    size = abs(x) // abs(y)
+    return size if (x < 0) == (y < 0) else -size
+
+
+def signed_result(op, x, y):
+    if op == 0:
+        return x + y
+    if op == 1:
+        return x - y
+    if op == 2:
+        return x * y
+    if op == 6:
+        return quotient_toward_zero(x, y)
+    if op == 7:
+        return x - y * quotient_toward_zero(x, y)
+    if op == 8:
+        return x // y
+    return x % y
+
+
+def plain_result(op, a, b):
+    if op == 3:
+        return a + b
+    if op == 4:
+        return a - b
+    if op == 5:
+        return a * b
+    if op == 10:
+        return a // b
+    return a % b
+
+
+def turned_left(a, distance):
+    return (a << distance) | (a >> (WIDTH - distance))
+
+
+def bits_result(op, a, b):
+    distance = b & 127
+    if op == 12:
+        return a & b
+    if op == 13:
+        return a | b
+    if op == 14:
+        return a ^ b
+    if op == 15:
+        return a << distance
+    if op == 16:
+        return as_signed(a) >> distance
+    if op == 17:
+        return a >> distance
+    return turned_left(a, distance)
+
+
+def op(op, a, b):
+    if op < 0 or op > 18:
+        return [-2]
+    if op >= 12:
+        # Bits that are shifted out are no misfit: only the results of 0 to 11 can fail to fit.
+        return wide_answer(0, bits_result(op, a, b))
+    if op >= 6 and b == 0:
+        return [-1]
+    if op in (3, 4, 5, 10, 11):
+        result = plain_result(op, a, b)
+        return wide_answer(0 if fits_plain(result) else 1, result)
+    result = signed_result(op, as_signed(a), as_signed(b))
+    return wide_answer(0 if fits_signed(result) else 1, result)
+
+
+def order(a, b, plain):
+    x = a if plain == 1 else as_signed(a)
+    y = b if plain == 1 else as_signed(b)
+    if x < y:
+        return [-1]
+    if x > y:
+        return [1]
+    return [0]
