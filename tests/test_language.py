@@ -1,4 +1,4 @@
-"""The package keeps to the small part of Python it is written in, as far as its source shows."""
+"""Part of the rules for the package's source: files, sizes, names, statements and expressions. Not every rule is here."""
 
 import ast
 import builtins
