@@ -22,7 +22,7 @@ METHODS = "append extend insert pop reverse copy count index get items keys valu
 WORDS_OUT = ("type typing typing_extensions enum Enum IntEnum StrEnum Flag IntFlag Generic Protocol ABC ABCMeta "
              "namedtuple NamedTuple TypedDict TYPE_CHECKING abstractmethod").split()
 PARTS_OUT = "dataclass overload contextmanager".split()
-INTERFACE = {"op": ["op", "a", "b"], "order": ["a", "b", "plain"]}
+INTERFACE = {"op": ["op", "a", "b"], "order": ["a", "b", "plain"], "bits": ["a", "what"], "product": ["a", "b"]}
 
 
 def trees():

@@ -2,6 +2,7 @@
 
 WIDTH = 128
 WIDTH_BYTES = 16
+PRODUCT_BYTES = 32
 SPAN = 0x100000000000000000000000000000000
 HALF = 0x80000000000000000000000000000000
 
@@ -105,3 +106,33 @@ def order(a, b, plain):
     if x > y:
         return [1]
     return [0]
+
+
+def ones_among_bits(a):
+    ones = 0
+    for k in range(WIDTH):
+        ones += (a >> k) & 1
+    return ones
+
+
+def zeros_behind_last_one(a):
+    if a == 0:
+        return WIDTH
+    # Of a and its opposite only a's lowest 1 stands in both.
+    return (a & -a).bit_length() - 1
+
+
+def bits(a, what):
+    if what == 0:
+        return [ones_among_bits(a)]
+    if what == 1:
+        return [WIDTH - a.bit_length()]
+    if what == 2:
+        return [zeros_behind_last_one(a)]
+    if what == 3:
+        return [ones_among_bits(a) & 1]
+    return [-1]
+
+
+def product(a, b):
+    return [0, PRODUCT_BYTES] + lowest_bytes(a * b, PRODUCT_BYTES)
