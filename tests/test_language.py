@@ -22,7 +22,8 @@ METHODS = "append extend insert pop reverse copy count index get items keys valu
 WORDS_OUT = ("type typing typing_extensions enum Enum IntEnum StrEnum Flag IntFlag Generic Protocol ABC ABCMeta "
              "namedtuple NamedTuple TypedDict TYPE_CHECKING abstractmethod").split()
 PARTS_OUT = "dataclass overload contextmanager".split()
-INTERFACE = {"op": ["op", "a", "b"], "order": ["a", "b", "plain"], "bits": ["a", "what"], "product": ["a", "b"]}
+INTERFACE = {"op": ["op", "a", "b"], "order": ["a", "b", "plain"], "bits": ["a", "what"], "product": ["a", "b"],
+             "divide": ["n", "d"], "double": ["a", "plain"]}
 
 
 def trees():
@@ -94,6 +95,8 @@ class Insides(unittest.TestCase):
                 where = (name, getattr(node, "lineno", 0), ast.dump(node)[:60])
                 if isinstance(node, ast.stmt):
                     self.assertIsInstance(node, STATEMENTS, where)
+                if isinstance(node, ast.Expr) and node is not tree.body[0]:
+                    self.assertIsInstance(node.value, ast.Call, where)
                 if isinstance(node, ast.expr):
                     self.assertIsInstance(node, EXPRESSIONS, where)
                 if isinstance(node, ast.operator):

@@ -6,9 +6,18 @@ PRODUCT_BYTES = 32
 SPAN = 0x100000000000000000000000000000000
 HALF = 0x80000000000000000000000000000000
 
+# A double: its sign in bit 63, its exponent in bits 52 to 62, its fraction in the 52 bits below.
+DOUBLE_SIGN = 0x8000000000000000
+FRACTION_WIDTH = 52
+EXPONENT_OF_ONE = 1023
+
 
 def as_signed(a):
     return a - SPAN if a >= HALF else a
+
+
+def as_told(a, plain):
+    return a if plain == 1 else as_signed(a)
 
 
 def fits_signed(number):
@@ -99,8 +108,8 @@ def op(op, a, b):
 
 
 def order(a, b, plain):
-    x = a if plain == 1 else as_signed(a)
-    y = b if plain == 1 else as_signed(b)
+    x = as_told(a, plain)
+    y = as_told(b, plain)
     if x < y:
         return [-1]
     if x > y:
@@ -136,3 +145,44 @@ def bits(a, what):
 
 def product(a, b):
     return [0, PRODUCT_BYTES] + lowest_bytes(a * b, PRODUCT_BYTES)
+
+
+def divide(n, d):
+    if d == 0:
+        return [-1]
+    quotient = n // d
+    if not fits_plain(quotient):
+        return [1]
+    return wide_answer(0, quotient) + [WIDTH_BYTES] + lowest_bytes(n % d, WIDTH_BYTES)
+
+
+def rounded_off(size, drop):
+    kept = size >> drop
+    # Half a unit is told by twice the rest, so that it's a whole number at every drop.
+    twice_rest = (size - (kept << drop)) << 1
+    unit = 1 << drop
+    if twice_rest > unit or (twice_rest == unit and kept % 2 == 1):
+        return kept + 1
+    return kept
+
+
+def leading_bits(size, width):
+    drop = size.bit_length() - width
+    if drop <= 0:
+        return size << -drop
+    return rounded_off(size, drop)
+
+
+def double_of_size(size):
+    if size == 0:
+        return 0
+    # The first 1 is among the leading bits though a double leaves it out: added to the exponent's place it makes
+    # up for the one less there. A rounding that carries goes on to the next exponent in the same way.
+    exponent = EXPONENT_OF_ONE + size.bit_length() - 1
+    return ((exponent - 1) << FRACTION_WIDTH) + leading_bits(size, FRACTION_WIDTH + 1)
+
+
+def double(a, plain):
+    x = as_told(a, plain)
+    size = double_of_size(abs(x))
+    return [size + DOUBLE_SIGN if x < 0 else size]
