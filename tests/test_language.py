@@ -23,7 +23,7 @@ WORDS_OUT = ("type typing typing_extensions enum Enum IntEnum StrEnum Flag IntFl
              "namedtuple NamedTuple TypedDict TYPE_CHECKING abstractmethod").split()
 PARTS_OUT = "dataclass overload contextmanager".split()
 INTERFACE = {"op": ["op", "a", "b"], "order": ["a", "b", "plain"], "bits": ["a", "what"], "product": ["a", "b"],
-             "divide": ["n", "d"], "double": ["a", "plain"]}
+             "divide": ["n", "d"], "double": ["a", "plain"], "whole": ["x", "plain"], "read": ["n", "base", "text"]}
 
 
 def trees():

@@ -9,7 +9,12 @@ HALF = 0x80000000000000000000000000000000
 # A double: its sign in bit 63, its exponent in bits 52 to 62, its fraction in the 52 bits below.
 DOUBLE_SIGN = 0x8000000000000000
 FRACTION_WIDTH = 52
+FRACTION_SPAN = 0x10000000000000
 EXPONENT_OF_ONE = 1023
+EXPONENT_OF_NO_NUMBER = 2047
+
+LONGEST_TEXT = 1000
+NO_DIGIT = -1
 
 
 def as_signed(a):
@@ -26,6 +31,10 @@ def fits_signed(number):
 
 def fits_plain(number):
     return 0 <= number < SPAN
+
+
+def fits_told(number, plain):
+    return fits_plain(number) if plain == 1 else fits_signed(number)
 
 
 def lowest_bytes(number, size):
@@ -186,3 +195,69 @@ def double(a, plain):
     x = as_told(a, plain)
     size = double_of_size(abs(x))
     return [size + DOUBLE_SIGN if x < 0 else size]
+
+
+def size_without_point(exponent, fraction):
+    # Here are also the numbers below the least normal one, which have no 1 before their fraction.
+    if exponent < EXPONENT_OF_ONE:
+        return 0
+    significand = FRACTION_SPAN + fraction
+    places = exponent - EXPONENT_OF_ONE - FRACTION_WIDTH
+    return significand << places if places >= 0 else significand >> -places
+
+
+def whole(x, plain):
+    exponent = (x % DOUBLE_SIGN) >> FRACTION_WIDTH
+    if exponent == EXPONENT_OF_NO_NUMBER:
+        return [-1]
+    size = size_without_point(exponent, x % FRACTION_SPAN)
+    number = -size if x >= DOUBLE_SIGN else size
+    if not fits_told(number, plain):
+        return [-1]
+    return wide_answer(0, number)
+
+
+def is_base(base):
+    return 2 <= base <= 36
+
+
+def digit_of(letter):
+    if ord("0") <= letter <= ord("9"):
+        return letter - ord("0")
+    if ord("a") <= letter <= ord("z"):
+        return letter - ord("a") + 10
+    if ord("A") <= letter <= ord("Z"):
+        return letter - ord("A") + 10
+    return NO_DIGIT
+
+
+def are_digits(letters, base):
+    if len(letters) == 0:
+        return False
+    for letter in letters:
+        digit = digit_of(letter)
+        if digit == NO_DIGIT or digit >= base:
+            return False
+    return True
+
+
+def size_of_digits(letters, base):
+    size = 0
+    for letter in letters:
+        size = size * base + digit_of(letter)
+    return size
+
+
+def read(n, base, text):
+    if n < 1 or n > LONGEST_TEXT or not is_base(base):
+        return [-1]
+    below_zero = text[0] == ord("-")
+    letters = text[1:] if below_zero else text
+    # A text of 1000 digits is gone through to its end, since a wrong sign is told before a number that doesn't fit.
+    if not are_digits(letters, base):
+        return [-1]
+    size = size_of_digits(letters, base)
+    number = -size if below_zero else size
+    if not fits_signed(number):
+        return [-2]
+    return wide_answer(0, number)
