@@ -2,7 +2,6 @@
 
 import ast
 import builtins
-import inspect
 import pathlib
 import re
 import unittest
@@ -22,8 +21,6 @@ METHODS = "append extend insert pop reverse copy count index get items keys valu
 WORDS_OUT = ("type typing typing_extensions enum Enum IntEnum StrEnum Flag IntFlag Generic Protocol ABC ABCMeta "
              "namedtuple NamedTuple TypedDict TYPE_CHECKING abstractmethod").split()
 PARTS_OUT = "dataclass overload contextmanager".split()
-INTERFACE = {"op": ["op", "a", "b"], "order": ["a", "b", "plain"], "bits": ["a", "what"], "product": ["a", "b"],
-             "divide": ["n", "d"], "double": ["a", "plain"], "whole": ["x", "plain"], "read": ["n", "base", "text"]}
 
 
 def trees():
@@ -80,12 +77,6 @@ class Tops(unittest.TestCase):
                 else:
                     bound.append(node.name)
             self.assertEqual(len(bound), len(set(bound)), name)
-
-    def test_interface(self):
-        for name, parameters in INTERFACE.items():
-            told = inspect.signature(getattr(wholes, name)).parameters.values()
-            self.assertEqual([parameter.name for parameter in told], parameters)
-            self.assertTrue(all(parameter.default is parameter.empty for parameter in told))
 
 
 class Insides(unittest.TestCase):

@@ -261,3 +261,27 @@ def read(n, base, text):
     if not fits_signed(number):
         return [-2]
     return wide_answer(0, number)
+
+
+def letter_of(digit):
+    return ord("0") + digit if digit < 10 else ord("a") + digit - 10
+
+
+def letters_from_lowest(size, base):
+    letters = [letter_of(size % base)]
+    rest = size // base
+    while rest > 0:
+        letters.append(letter_of(rest % base))
+        rest = rest // base
+    return letters
+
+
+def write(a, base):
+    if not is_base(base):
+        return [-1]
+    number = as_signed(a)
+    letters = letters_from_lowest(abs(number), base)
+    if number < 0:
+        letters.append(ord("-"))
+    letters.reverse()
+    return [len(letters), len(letters)] + letters
