@@ -129,7 +129,7 @@ def order(a, b, plain):
 def ones_among_bits(a):
     ones = 0
     for k in range(WIDTH):
-        ones += (a >> k) & 1
+        ones = ones + ((a >> k) & 1)
     return ones
 
 
